@@ -29,6 +29,11 @@ const (
 	longestSteps = 41
 )
 
+// turningGrid is one line from the first row to the last one: every other row is blocked except at one end, right and left in turn.
+func turningGrid() impl.Grid {
+	return gridWith("........", "#######.", "........", ".#######", "........", "#######.", "........", ".#######")
+}
+
 // stepsGrids has the grids on which all pairs of cells are checked: among them one row, one column, one cell, and MaxSide by MaxSide.
 func stepsGrids() []impl.Grid {
 	return append(cellsGrids(), longestGrid(),
@@ -301,8 +306,6 @@ func TestLongestPaths(t *testing.T) {
 	row := gridWith(strings.Repeat(".", n))
 	column := gridWith(strings.Split(strings.Repeat(".", n), "")...)
 	full := impl.Grid{Wide: n, High: n, Cells: strings.Repeat(".", n*n)}
-	// The other rows are blocked except at one end, left and right in turn.
-	turns := gridWith("........", "#######.", "........", ".#######", "........", "#######.", "........", ".#######")
 	cases := []struct {
 		g     impl.Grid
 		a, b  int
@@ -312,7 +315,7 @@ func TestLongestPaths(t *testing.T) {
 		{column, 0, n - 1, n - 1},
 		{full, 0, n*n - 1, 2*n - 2},
 		{full, n - 1, n*n - n, 2*n - 2},
-		{turns, 0, n*n - n, 4*n + 3},
+		{turningGrid(), 0, n*n - n, 4*n + 3},
 		{longestGrid(), longestFrom, longestTo, longestSteps},
 	}
 	for _, c := range cases {
