@@ -441,15 +441,17 @@ func TestTimeNetLastArc(t *testing.T) {
 // squareOfFour is a grid with more free cells than there can be robots.
 func squareOfFour() impl.Grid { return gridWith("....", "....", "....", "....") }
 
+// badAsk is a problem that is not valid, for one reason.
+type badAsk struct {
+	name string
+	a    ask
+}
+
 // Each fault alone, on a grid in which the same problem without it is valid.
-func TestAskOkFaults(t *testing.T) {
+func askFaults() []badAsk {
 	g, big, more := gridWith("..#", "..."), squareOfFour(), impl.MaxRobots+1
 	free := freeCellsOf(big)
-	checkTimeNets(t, ask{g, []int{0, 1}, []int{4}, 2})
-	cases := []struct {
-		name string
-		a    ask
-	}{
+	return []badAsk{
 		{"invalid byte in the grid", ask{gridWith("..x", "..."), []int{0, 1}, []int{4}, 2}},
 		{"grid with a cell too few", ask{impl.Grid{Wide: 3, High: 2, Cells: "..#.."}, []int{0, 1}, []int{4}, 2}},
 		{"no starts", ask{g, nil, nil, 2}},
@@ -499,7 +501,11 @@ func TestAskOkFaults(t *testing.T) {
 		{"span for which the product is 0 without its upper bits", ask{gridWith("...."), []int{0}, nil, 1<<62 - 1}},
 		{"too many layers", ask{big, free[:2], []int{4}, 15}},
 	}
-	for _, c := range cases {
+}
+
+func TestAskOkFaults(t *testing.T) {
+	checkTimeNets(t, ask{gridWith("..#", "..."), []int{0, 1}, []int{4}, 2})
+	for _, c := range askFaults() {
 		checkNoAsk(t, c.name, c.a)
 	}
 }

@@ -342,6 +342,32 @@ func checkKnownWays(t *testing.T, name string, a ask, ways []impl.Way, moves int
 	}
 }
 
+// ringWays has the paths of robots that go around a ring of cells, all in the same direction.
+func ringWays(ring []int, starts []int, span int) []impl.Way {
+	var ways []impl.Way
+	for _, start := range starts {
+		var w impl.Way
+		for time := range span + 1 {
+			w.Cells = append(w.Cells, ring[(slices.Index(ring, start)+time)%len(ring)])
+		}
+		ways = append(ways, w)
+	}
+	return ways
+}
+
+// downWays has the paths of MaxRobots robots from the first cells of rows of MaxSide, which go down some steps and wait then.
+func downWays(steps int, span int) []impl.Way {
+	var ways []impl.Way
+	for _, start := range cellsFrom(0) {
+		var w impl.Way
+		for time := range span + 1 {
+			w.Cells = append(w.Cells, start+impl.MaxSide*min(time, steps))
+		}
+		ways = append(ways, w)
+	}
+	return ways
+}
+
 // Problems at the limits with known paths: MaxRobots robots go around a ring of cells, all in the same direction.
 func TestWaysAroundLimitRings(t *testing.T) {
 	cases := []struct {
@@ -358,14 +384,7 @@ func TestWaysAroundLimitRings(t *testing.T) {
 	}
 	for _, c := range cases {
 		a := ask{g: c.g, starts: freeCellsOf(c.g)[:impl.MaxRobots], span: c.span}
-		var ways []impl.Way
-		for _, start := range a.starts {
-			var w impl.Way
-			for time := range c.span + 1 {
-				w.Cells = append(w.Cells, c.ring[(slices.Index(c.ring, start)+time)%len(c.ring)])
-			}
-			ways = append(ways, w)
-		}
+		ways := ringWays(c.ring, a.starts, c.span)
 		checkKnownWays(t, c.name, a, ways, c.moves, c.ends)
 		if used := impl.CellsUsed(ways); !slices.Equal(used, freeCellsOf(c.g)) {
 			t.Errorf("%s: CellsUsed is %v", c.name, used)
@@ -380,14 +399,7 @@ func TestWaysDownLimitGrids(t *testing.T) {
 		{64, 2, 2}, {60, 3, 3}, {48, 4, 4}, {40, 5, 3}, {30, 7, 2}, {24, 9, 1}, {20, 11, 0}, {16, 14, 0}, {15, 15, 0}, {12, 19, 0}, {11, 20, 0}, {10, 20, 0},
 	} {
 		a := ask{g: gridOf(c.free), starts: cellsFrom(0), span: c.span}
-		var ways []impl.Way
-		for _, start := range a.starts {
-			var w impl.Way
-			for time := range c.span + 1 {
-				w.Cells = append(w.Cells, start+impl.MaxSide*min(time, c.steps))
-			}
-			ways = append(ways, w)
-		}
+		ways := downWays(c.steps, c.span)
 		checkKnownWays(t, "down a grid", a, ways, c.steps*impl.MaxRobots, cellsFrom(impl.MaxSide*c.steps))
 		if used := impl.CellsUsed(ways); len(used) != impl.MaxRobots+impl.MaxSide*c.steps {
 			t.Errorf("%d steps down a grid: CellsUsed is %v", c.steps, used)

@@ -304,18 +304,14 @@ func checkNoWays(t *testing.T, name string, a ask, ways []impl.Way, flow []int) 
 	}
 }
 
-// Robots that wait on a grid that is valid, with the network that the chapter would describe.
-func TestWaysWithoutProblem(t *testing.T) {
-	g, big := gridWith("..#", "..."), squareOfFour()
+// waitAsk is a problem in which robots only need to wait.
+var waitAsk = ask{gridWith("..#", "..."), []int{0, 1}, []int{1}, 2}
+
+// Problems that are not valid, for one reason each, and in which robots would only need to wait otherwise.
+func badAsks() []badAsk {
+	g, big := waitAsk.g, squareOfFour()
 	free := freeCellsOf(big)
-	valid := ask{g, []int{0, 1}, []int{1}, 2}
-	if n := valid.wayNet(); !n.checkPaths(t, valid.waits()) {
-		t.Fatalf("robots cannot wait in %+v", valid)
-	}
-	cases := []struct {
-		name string
-		a    ask
-	}{
+	return []badAsk{
 		{"no starts", ask{g, nil, nil, 2}},
 		{"no starts, span 0", ask{g, nil, nil, 0}},
 		{"no starts, a goal", ask{g, nil, []int{1}, 2}},
@@ -337,14 +333,21 @@ func TestWaysWithoutProblem(t *testing.T) {
 		{"span MaxSpan+1", ask{g, []int{0, 1}, []int{1}, impl.MaxSpan + 1}},
 		{"too many layers", ask{big, free[:2], []int{1}, 15}},
 	}
-	for _, c := range cases {
+}
+
+// Robots that wait on a grid that is valid, with the network that the chapter would describe.
+func TestWaysWithoutProblem(t *testing.T) {
+	if n := waitAsk.wayNet(); !n.checkPaths(t, waitAsk.waits()) {
+		t.Fatalf("robots cannot wait in %+v", waitAsk)
+	}
+	for _, c := range badAsks() {
 		n := c.a.wayNet()
 		checkNoWays(t, c.name, c.a, c.a.waits(), n.plainFlow(c.a.waits()))
 	}
 	for _, span := range []int{-1, -2, math.MinInt, math.MaxInt, 1<<62 - 1} {
-		a := ask{g, []int{0, 1}, []int{1}, span}
-		for _, ways := range [][]impl.Way{nil, make([]impl.Way, 2), valid.waits()} {
-			checkNoWays(t, "span out of its range", a, ways, valid.wayNet().plainFlow(valid.waits()))
+		a := waitAsk.at(span)
+		for _, ways := range [][]impl.Way{nil, make([]impl.Way, 2), waitAsk.waits()} {
+			checkNoWays(t, "span out of its range", a, ways, waitAsk.wayNet().plainFlow(waitAsk.waits()))
 		}
 	}
 }
@@ -387,69 +390,76 @@ func TestFlowForWithoutFaults(t *testing.T) {
 	}
 }
 
+// wayFault is a list of paths with one fault, and its code as a plan.
+type wayFault struct {
+	name string
+	a    ask
+	ways string
+	code int
+}
+
 // Each fault alone, for the same problems.
-func TestFlowForFaults(t *testing.T) {
-	cases := []struct {
-		name string
-		a    ask
-		ways string
-	}{
-		{"no paths", noGoals, ""},
-		{"fewer paths than starts", oneGoal, "0 3 4"},
-		{"fewer paths than starts, no goals", noGoals, "0 0 0"},
-		{"fewer paths than starts, the last one", noGoals, "1 1 1"},
-		{"more paths than starts", oneGoal, "0 3 4, 1 1 1, 5 5 5"},
-		{"more paths than starts, the last one without cells", oneGoal, "0 3 4, 1 1 1,"},
-		{"more paths than starts, the same one twice", noGoals, "0 0 0, 1 1 1, 1 1 1"},
-		{"paths in another order", oneGoal, "1 1 1, 0 3 4"},
-		{"paths in another order, no goals", noGoals, "1 1 1, 0 0 0"},
-		{"first path begins elsewhere", oneGoal, "3 3 4, 1 1 1"},
-		{"last path begins elsewhere", oneGoal, "0 3 4, 5 5 5"},
-		{"path begins at a blocked cell", noGoals, "0 0 0, 2 1 1"},
-		{"path begins at a negative number", noGoals, "-1 0 0, 1 1 1"},
-		{"path begins past the grid", noGoals, "0 0 0, 6 1 1"},
-		{"path begins far below 0", noGoals, "-9223372036854775808 0 0, 1 1 1"},
-		{"first path with a cell too few", oneGoal, "0 3, 1 4 4"},
-		{"last path with a cell too few", oneGoal, "0 3 4, 1 1"},
-		{"both paths with a cell too few", noGoals, "0 0, 1 1"},
-		{"first path with a cell too many", oneGoal, "0 3 4 4, 1 1 1"},
-		{"last path with a cell too many", oneGoal, "0 3 4, 1 1 1 1"},
-		{"both paths with a cell too many", noGoals, "0 0 0 0, 1 1 1 1"},
-		{"first path without cells", oneGoal, ", 1 4 4"},
-		{"last path without cells", oneGoal, "0 3 4,"},
-		{"all paths without cells", noGoals, ","},
-		{"paths with the start alone", noGoals, "0, 1"},
-		{"first step to a cell that is not adjacent", oneGoal, "0 4 4, 1 1 1"},
-		{"last step to a cell that is not adjacent", oneGoal, "0 0 4, 1 1 1"},
-		{"last step to a cell that is not adjacent, no goals", noGoals, "0 0 0, 1 1 3"},
-		{"step over a cell", noGoals, "0 3 5, 1 1 1"},
-		{"step from the end of a row to the beginning of the next one", moreRows, "2 2 3, 4 4 4"},
-		{"step from the beginning of a row to the end of the one above", moreRows, "2 1 4, 4 3 2"},
-		{"both paths step to the next cell of the other one", noGoals, "0 0 4, 1 1 3"},
-		{"step to a blocked cell at the end", noGoals, "0 0 0, 1 1 2"},
-		{"step to a blocked cell in the middle", noGoals, "0 0 0, 1 2 1"},
-		{"step to a negative number at the end", noGoals, "0 0 -1, 1 1 1"},
-		{"step to a negative number in the middle", oneGoal, "0 -1 0, 1 1 4"},
-		{"step above the first row", noGoals, "0 -3 0, 1 1 1"},
-		{"step far below 0", noGoals, "0 0 -9223372036854775808, 1 1 1"},
-		{"step past the grid at the end", noGoals, "0 0 0, 1 4 7"},
-		{"step past the grid in the middle", noGoals, "0 0 0, 1 6 1"},
-		{"step to the cell after the last one", ask{noGoals.g, []int{0, 5}, nil, 2}, "0 0 0, 5 5 6"},
-		{"step far past the grid", noGoals, "0 9223372036854775807 0, 1 1 1"},
-		{"the same cell at the beginning", noGoals, "0 0 0, 0 1 1"},
-		{"the same cell at the beginning, later ones differ", oneGoal, "1 4 4, 1 1 1"},
-		{"the same cell in the middle", oneGoal, "0 1 0, 1 1 4"},
-		{"the same cell in the middle, from both sides", noGoals, "0 3 3, 1 3 4"},
-		{"the same cell at the end", noGoals, "0 0 0, 1 1 0"},
-		{"the same cell at the end, which is the goal", oneGoal, "0 3 4, 1 4 4"},
-		{"the same cell at all times", noGoals, "0 0 0, 0 0 0"},
-		{"the goal remains without a robot", oneGoal, "0 0 0, 1 1 1"},
-		{"the goal remains without a robot that has passed it", oneGoal, "0 3 3, 1 4 1"},
-		{"two goals, one remains without a robot", twoGoals, "0 0 0, 1 1 4"},
-		{"two goals, the other one remains without a robot", twoGoals, "0 3 3, 1 1 1"},
-		{"two goals, both remain without a robot", twoGoals, "0 0 0, 1 1 1"},
+func wayFaults() []wayFault {
+	return []wayFault{
+		{"no paths", noGoals, "", impl.PnForm},
+		{"fewer paths than starts", oneGoal, "0 3 4", impl.PnForm},
+		{"fewer paths than starts, no goals", noGoals, "0 0 0", impl.PnForm},
+		{"fewer paths than starts, the last one", noGoals, "1 1 1", impl.PnForm},
+		{"more paths than starts", oneGoal, "0 3 4, 1 1 1, 5 5 5", impl.PnForm},
+		{"more paths than starts, the last one without cells", oneGoal, "0 3 4, 1 1 1,", impl.PnForm},
+		{"more paths than starts, the same one twice", noGoals, "0 0 0, 1 1 1, 1 1 1", impl.PnForm},
+		{"paths in another order", oneGoal, "1 1 1, 0 3 4", impl.PnForm},
+		{"paths in another order, no goals", noGoals, "1 1 1, 0 0 0", impl.PnForm},
+		{"first path begins elsewhere", oneGoal, "3 3 4, 1 1 1", impl.PnForm},
+		{"last path begins elsewhere", oneGoal, "0 3 4, 5 5 5", impl.PnForm},
+		{"path begins at a blocked cell", noGoals, "0 0 0, 2 1 1", impl.PnForm},
+		{"path begins at a negative number", noGoals, "-1 0 0, 1 1 1", impl.PnForm},
+		{"path begins past the grid", noGoals, "0 0 0, 6 1 1", impl.PnForm},
+		{"path begins far below 0", noGoals, "-9223372036854775808 0 0, 1 1 1", impl.PnForm},
+		{"first path with a cell too few", oneGoal, "0 3, 1 4 4", impl.PnForm},
+		{"last path with a cell too few", oneGoal, "0 3 4, 1 1", impl.PnForm},
+		{"both paths with a cell too few", noGoals, "0 0, 1 1", impl.PnForm},
+		{"first path with a cell too many", oneGoal, "0 3 4 4, 1 1 1", impl.PnForm},
+		{"last path with a cell too many", oneGoal, "0 3 4, 1 1 1 1", impl.PnForm},
+		{"both paths with a cell too many", noGoals, "0 0 0 0, 1 1 1 1", impl.PnForm},
+		{"first path without cells", oneGoal, ", 1 4 4", impl.PnForm},
+		{"last path without cells", oneGoal, "0 3 4,", impl.PnForm},
+		{"all paths without cells", noGoals, ",", impl.PnForm},
+		{"paths with the start alone", noGoals, "0, 1", impl.PnForm},
+		{"first step to a cell that is not adjacent", oneGoal, "0 4 4, 1 1 1", impl.PnStep},
+		{"last step to a cell that is not adjacent", oneGoal, "0 0 4, 1 1 1", impl.PnStep},
+		{"last step to a cell that is not adjacent, no goals", noGoals, "0 0 0, 1 1 3", impl.PnStep},
+		{"step over a cell", noGoals, "0 3 5, 1 1 1", impl.PnStep},
+		{"step from the end of a row to the beginning of the next one", moreRows, "2 2 3, 4 4 4", impl.PnStep},
+		{"step from the beginning of a row to the end of the one above", moreRows, "2 1 4, 4 3 2", impl.PnStep},
+		{"both paths step to the next cell of the other one", noGoals, "0 0 4, 1 1 3", impl.PnStep},
+		{"step to a blocked cell at the end", noGoals, "0 0 0, 1 1 2", impl.PnStep},
+		{"step to a blocked cell in the middle", noGoals, "0 0 0, 1 2 1", impl.PnStep},
+		{"step to a negative number at the end", noGoals, "0 0 -1, 1 1 1", impl.PnStep},
+		{"step to a negative number in the middle", oneGoal, "0 -1 0, 1 1 4", impl.PnStep},
+		{"step above the first row", noGoals, "0 -3 0, 1 1 1", impl.PnStep},
+		{"step far below 0", noGoals, "0 0 -9223372036854775808, 1 1 1", impl.PnStep},
+		{"step past the grid at the end", noGoals, "0 0 0, 1 4 7", impl.PnStep},
+		{"step past the grid in the middle", noGoals, "0 0 0, 1 6 1", impl.PnStep},
+		{"step to the cell after the last one", ask{noGoals.g, []int{0, 5}, nil, 2}, "0 0 0, 5 5 6", impl.PnStep},
+		{"step far past the grid", noGoals, "0 9223372036854775807 0, 1 1 1", impl.PnStep},
+		{"the same cell at the beginning", noGoals, "0 0 0, 0 1 1", impl.PnForm},
+		{"the same cell at the beginning, later ones differ", oneGoal, "1 4 4, 1 1 1", impl.PnForm},
+		{"the same cell in the middle", oneGoal, "0 1 0, 1 1 4", impl.PnMeet},
+		{"the same cell in the middle, from both sides", moreRows, "2 1 2, 4 1 4", impl.PnMeet},
+		{"the same cell at the end", noGoals, "0 0 0, 1 1 0", impl.PnMeet},
+		{"the same cell at the end, which is the goal", oneGoal, "0 3 4, 1 4 4", impl.PnMeet},
+		{"the same cell at all times", noGoals, "0 0 0, 0 0 0", impl.PnForm},
+		{"the goal remains without a robot", oneGoal, "0 0 0, 1 1 1", impl.PnGoal},
+		{"the goal remains without a robot that has passed it", oneGoal, "0 3 3, 1 4 1", impl.PnGoal},
+		{"two goals, one remains without a robot", twoGoals, "0 0 0, 1 1 4", impl.PnGoal},
+		{"two goals, the other one remains without a robot", twoGoals, "0 3 3, 1 1 1", impl.PnGoal},
+		{"two goals, both remain without a robot", twoGoals, "0 0 0, 1 1 1", impl.PnGoal},
 	}
-	for _, c := range cases {
+}
+
+func TestFlowForFaults(t *testing.T) {
+	for _, c := range wayFaults() {
 		if !c.a.ok() {
 			t.Fatalf("%s: AskOk(%+v) is false", c.name, c.a)
 		}
